@@ -71,6 +71,15 @@ func isWord(n int) bool {
 	return 0 <= n && n <= MaxWord
 }
 
+func areWords(list []int) bool {
+	for _, n := range list {
+		if !isWord(n) {
+			return false
+		}
+	}
+	return true
+}
+
 // WordOf returns the word that a number is modulo 65536.
 func WordOf(n int) int {
 	// Unlike the remainder, the mask is never below 0 for numbers below 0.
