@@ -1173,6 +1173,30 @@ func TestPromise26TheLongestCode(t *testing.T) {
 
 // What is told of what is no image is nothing.
 
+// spoiltImages has what is no image, each changed in one part alone from an image of 7 bytes that imageOf made.
+func spoiltImages(base impl.Image) []impl.Image {
+	changes := []func(m *impl.Image){
+		func(m *impl.Image) { m.Entry = -1 },
+		func(m *impl.Image) { m.Entry = len(m.Code) },
+		func(m *impl.Image) { m.Room = 65 },
+		func(m *impl.Image) { m.Room = -1 },
+		func(m *impl.Image) { m.Room = 3 },
+		func(m *impl.Image) { m.Data[0] = 256 },
+		func(m *impl.Image) { m.Code[6] = 256 },
+		func(m *impl.Image) { m.Code = append(m.Code, -1) },
+		func(m *impl.Image) { m.Code = append(m.Code, zeros(2000)...) },
+		func(m *impl.Image) { m.Names = []impl.Name{{Text: "A"}} },
+		func(m *impl.Image) { m.Names = []impl.Name{{Text: "a", At: 7}} },
+	}
+	var list []impl.Image
+	for _, change := range changes {
+		m := copied(base)
+		change(&m)
+		list = append(list, m)
+	}
+	return list
+}
+
 func TestNothingIsToldOfNoImages(t *testing.T) {
 	nothing := charted{}
 	for k, m := range badImages() {
@@ -1188,20 +1212,7 @@ func TestNothingIsToldOfNoImages(t *testing.T) {
 	if !impl.Sound(base) {
 		t.Error("the image is not sound")
 	}
-	for _, change := range []func(m *impl.Image){
-		func(m *impl.Image) { m.Entry = -1 },
-		func(m *impl.Image) { m.Entry = len(m.Code) },
-		func(m *impl.Image) { m.Room = 65 },
-		func(m *impl.Image) { m.Room = 3 },
-		func(m *impl.Image) { m.Data[0] = 256 },
-		func(m *impl.Image) { m.Code[6] = 256 },
-		func(m *impl.Image) { m.Code = append(m.Code, -1) },
-		func(m *impl.Image) { m.Code = append(m.Code, zeros(2000)...) },
-		func(m *impl.Image) { m.Names = []impl.Name{{Text: "A"}} },
-		func(m *impl.Image) { m.Names = []impl.Name{{Text: "a", At: 7}} },
-	} {
-		m := copied(base)
-		change(&m)
+	for _, m := range spoiltImages(base) {
 		if got := chartedOf(m); !sameCharted(got, nothing) {
 			t.Errorf("of %v is told %v", m, got)
 		}

@@ -784,21 +784,7 @@ func TestNoFunctionsOfNoImages(t *testing.T) {
 	if len(impl.SharedIn(base)) != 2 || !impl.CallsItself(base, 0) || !impl.CallsItself(base, 3) {
 		t.Error("the image has other functions")
 	}
-	for _, change := range []func(m *impl.Image){
-		func(m *impl.Image) { m.Entry = -1 },
-		func(m *impl.Image) { m.Entry = len(m.Code) },
-		func(m *impl.Image) { m.Room = 65 },
-		func(m *impl.Image) { m.Room = -1 },
-		func(m *impl.Image) { m.Room = 3 },
-		func(m *impl.Image) { m.Data[0] = 256 },
-		func(m *impl.Image) { m.Code[6] = 256 },
-		func(m *impl.Image) { m.Code = append(m.Code, -1) },
-		func(m *impl.Image) { m.Code = append(m.Code, zeros(2000)...) },
-		func(m *impl.Image) { m.Names = []impl.Name{{Text: "A"}} },
-		func(m *impl.Image) { m.Names = []impl.Name{{Text: "a", At: 7}} },
-	} {
-		m := copied(base)
-		change(&m)
+	for _, m := range spoiltImages(base) {
 		checkNone(m)
 	}
 }
