@@ -71,13 +71,18 @@ func isWord(n int) bool {
 	return 0 <= n && n <= MaxWord
 }
 
-func areWords(list []int) bool {
-	for _, n := range list {
-		if !isWord(n) {
+// every reports whether all items of a list, of whatever type, are as a function tells; all of none are.
+func every[T any](list []T, is func(item T) bool) bool {
+	for _, item := range list {
+		if !is(item) {
 			return false
 		}
 	}
 	return true
+}
+
+func areWords(list []int) bool {
+	return every(list, isWord)
 }
 
 // WordOf returns the word that a number is modulo 65536.
