@@ -81,6 +81,15 @@ func every[T any](list []T, is func(item T) bool) bool {
 	return true
 }
 
+// mapped returns what a function makes of each item of a list, in order; nil of none.
+func mapped[T any, U any](list []T, of func(item T) U) []U {
+	var made []U
+	for _, item := range list {
+		made = append(made, of(item))
+	}
+	return made
+}
+
 func areWords(list []int) bool {
 	return every(list, isWord)
 }
